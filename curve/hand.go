@@ -20,6 +20,15 @@ func (h hand) must(holds bool) {
 	}
 }
 
+// told: a point, if nothing is noted. The note is read in here, as beside a call that
+// may change it Go leaves open which of the two comes first.
+func (h hand) told(p api.Point) (api.Point, api.Errno) {
+	if *h.note != api.OK {
+		return api.Point{}, *h.note
+	}
+	return p, api.OK
+}
+
 // kept: a number, of which it is noted if it could not be reckoned.
 func (h hand) kept(a api.U256, e api.Errno) api.U256 {
 	h.must(e == api.OK)
